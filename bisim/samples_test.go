@@ -1,0 +1,278 @@
+package bisim
+
+import (
+	"fmt"
+	"slices"
+
+	"ectype/api"
+	"ectype/functor"
+	"ectype/system"
+	"ectype/value"
+)
+
+// coins is the system of the second example of DOC.md.
+const coins = "type 2 * D(X)\n0 = (0, {1 : 1, 2 : 2})\n1 = (1, {1 : 1})\n2 = (1, {2 : 1})\n"
+
+// must returns the result of a call that has to succeed.
+func must[R any](r R, e api.Errno) R {
+	if e != api.OK {
+		panic(fmt.Sprint("error ", e))
+	}
+	return r
+}
+
+func typed(s string) api.Functor  { return must(functor.Parse(s)) }
+func of(text string) api.System   { return must(system.Parse(text)) }
+func written(s api.System) string { return must(system.String(s)) }
+
+// pairs returns a relation from the components of its pairs, one after the other.
+func pairs(l ...int) [][2]int {
+	var r [][2]int
+	for i := 0; i < len(l); i += 2 {
+		r = append(r, [2]int{l[i], l[i+1]})
+	}
+	return r
+}
+
+// states returns the system of a functor in which the states have these next values.
+func states(f string, next ...string) api.System {
+	text := "type " + f + "\n"
+	for x, v := range next {
+		text += fmt.Sprintf("%d = %s\n", x, v)
+	}
+	return of(text)
+}
+
+// chain returns a system of 2 * X whose states are followed by each other; only the last one, which is followed by itself, has the output last.
+func chain(n, last int) api.System {
+	var next []string
+	for x := range n - 1 {
+		next = append(next, fmt.Sprintf("(0, %d)", x+1))
+	}
+	return states("2 * X", append(next, fmt.Sprintf("(%d, %d)", last, n-1))...)
+}
+
+// dice are numbers that look random, always the same ones from the same start.
+type dice uint64
+
+// below returns a number from 0 to n - 1.
+func (d *dice) below(n int) int {
+	*d = *d*6364136223846793005 + 1442695040888963407
+	return int(uint64(*d)>>33) % n
+}
+
+// functors are the functors of which values and systems are thrown: each kind, and combinations of them.
+var functors = []string{
+	"X", "2", "2 * X", "X * 2", "X + 2", "2 + X", "X + X", "X * X", "X ^ 3", "2 * X ^ 2", "P(X)", "2 * P(X)", "P(P(X))", "P(X * 2)", "P(1 + X)", "P(X) ^ 2",
+	"B(X)", "B(1 + X)", "2 * B(X)", "B(X) + X", "D(X)", "2 * D(X)", "1 + D(X)", "D(X + 2)", "D(P(X))", "P(D(X))", "B(P(X))", "P(B(X))", "D(B(X))", "(1 + P(X)) ^ 2",
+}
+
+// thrown returns some value of f over n states. Collections have at most three elements, and small weights.
+func (d *dice) thrown(f api.Functor, n int) api.Value {
+	return must(value.Normal(f, n, d.raw(f, n)))
+}
+
+func (d *dice) raw(f api.Functor, n int) api.Value {
+	var v api.Value
+	parts := slices.Clone(f.Args)
+	switch f.Kind {
+	case api.FId:
+		v.N = d.below(n)
+	case api.FConst:
+		v.N = d.below(f.N)
+	case api.FSum:
+		v.N = d.below(2)
+		parts = parts[v.N : v.N+1]
+	case api.FExp:
+		parts = slices.Repeat(parts, f.N)
+	case api.FPow, api.FBag:
+		parts = slices.Repeat(parts, d.below(4))
+	case api.FDist:
+		parts = slices.Repeat(parts, 1+d.below(3))
+	}
+	for _, g := range parts {
+		v.Args = append(v.Args, d.raw(g, n))
+		if f.Kind == api.FBag || f.Kind == api.FDist {
+			v.Weights = append(v.Weights, 1+d.below(2))
+		}
+	}
+	return v
+}
+
+// system returns some system of f with n states.
+func (d *dice) system(f string, n int) api.System {
+	s := api.System{Functor: typed(f)}
+	for range n {
+		s.Next = append(s.Next, d.thrown(s.Functor, n))
+	}
+	return s
+}
+
+// cover returns a system with n states, at least as many as s has, and a homomorphism from it to s.
+func (d *dice) cover(s api.System, n int) (api.System, []int) {
+	h := make([]int, n)
+	above := make([][]int, len(s.Next))
+	for x := range h {
+		if h[x] = x; x >= len(s.Next) {
+			h[x] = d.below(len(s.Next))
+		}
+		above[h[x]] = append(above[h[x]], x)
+	}
+	c := api.System{Functor: s.Functor}
+	for _, y := range h {
+		c.Next = append(c.Next, must(value.Normal(s.Functor, n, d.lifted(s.Functor, s.Next[y], above))))
+	}
+	return c, h
+}
+
+// lifted returns v with some state above each of its states; elements of collections are split.
+func (d *dice) lifted(f api.Functor, v api.Value, above [][]int) api.Value {
+	if f.Kind == api.FId {
+		return api.Value{N: above[v.N][d.below(len(above[v.N]))]}
+	}
+	w := api.Value{N: v.N}
+	for i, a := range v.Args {
+		g := partOf(f, v, i)
+		w.Args = append(w.Args, d.lifted(g, a, above))
+		switch f.Kind {
+		case api.FPow:
+			w.Args = append(w.Args, d.lifted(g, a, above))
+		case api.FBag, api.FDist:
+			all, part := v.Weights[i], 0
+			if f.Kind == api.FDist {
+				all *= 3
+			}
+			if all > 1 {
+				part = 1 + d.below(all-1)
+				w.Args, w.Weights = append(w.Args, d.lifted(g, a, above)), append(w.Weights, part)
+			}
+			w.Weights = append(w.Weights, all-part)
+		}
+	}
+	return w
+}
+
+// partOf returns the functor of the Args at i of v, a value of f.
+func partOf(f api.Functor, v api.Value, i int) api.Functor {
+	switch f.Kind {
+	case api.FProd:
+		return f.Args[i]
+	case api.FSum:
+		return f.Args[v.N]
+	}
+	return f.Args[0]
+}
+
+// relation returns some pairs of n and m states: each one with a probability of most quarters.
+func (d *dice) relation(n, m, most int) [][2]int {
+	var r [][2]int
+	for x := range n {
+		for y := range m {
+			if d.below(4) < most {
+				r = append(r, [2]int{x, y})
+			}
+		}
+	}
+	return r
+}
+
+// relations returns all relations between n and m states.
+func relations(n, m int) [][][2]int {
+	var all [][][2]int
+	for bits := range 1 << (n * m) {
+		var r [][2]int
+		for i := range n * m {
+			if bits>>i&1 == 1 {
+				r = append(r, [2]int{i / m, i % m})
+			}
+		}
+		all = append(all, r)
+	}
+	return all
+}
+
+// relatedByDefinition is the table of the chapter, for small values.
+func relatedByDefinition(f api.Functor, u, v api.Value, r [][2]int) bool {
+	if f.Kind == api.FId {
+		return slices.Contains(r, [2]int{u.N, v.N})
+	}
+	if f.Kind < api.FPow {
+		is := u.N == v.N
+		for i := range u.Args {
+			is = is && relatedByDefinition(partOf(f, u, i), u.Args[i], v.Args[i], r)
+		}
+		return is
+	}
+	var to []int // for each element of u the elements of v to which it is related, one bit for each
+	var all int
+	for i, a := range u.Args {
+		to = append(to, 0)
+		for j, b := range v.Args {
+			if relatedByDefinition(f.Args[0], a, b, r) {
+				to[i] |= 1 << j
+			}
+		}
+		all |= to[i]
+	}
+	switch f.Kind {
+	case api.FPow:
+		return !slices.Contains(to, 0) && all == 1<<len(v.Args)-1
+	case api.FBag:
+		return canTake(slices.Clone(u.Weights), slices.Clone(v.Weights), to)
+	}
+	return noneTooProbable(u.Weights, v.Weights, to)
+}
+
+// canTake reports whether all can be taken from both lists by taking 1 from related elements, again and again, in any way.
+func canTake(left, right, to []int) bool {
+	i := slices.IndexFunc(left, func(w int) bool { return w > 0 })
+	if i < 0 {
+		return !slices.ContainsFunc(right, func(w int) bool { return w > 0 })
+	}
+	left[i]--
+	defer func() { left[i]++ }()
+	for j := range right {
+		if right[j] == 0 || to[i]>>j&1 == 0 {
+			continue
+		}
+		right[j]--
+		is := canTake(left, right, to)
+		right[j]++
+		if is {
+			return true
+		}
+	}
+	return false
+}
+
+// noneTooProbable reports whether each set of elements on the left is at most as probable as all that its elements are related to.
+// By a theorem of Strassen, this is so if and only if two distributions are related.
+func noneTooProbable(left, right, to []int) bool {
+	total := func(weights []int, some int) int {
+		all := 0
+		for i, w := range weights {
+			all += w * (some >> i & 1)
+		}
+		return all
+	}
+	allLeft, allRight := total(left, -1), total(right, -1)
+	for some := range 1 << len(left) {
+		reached := 0
+		for i := range left {
+			if some>>i&1 == 1 {
+				reached |= to[i]
+			}
+		}
+		if total(left, some)*allRight > total(right, reached)*allLeft {
+			return false
+		}
+	}
+	return true
+}
+
+// isBisimulation is the definition, for small systems.
+func isBisimulation(s, t api.System, r [][2]int) bool {
+	return !slices.ContainsFunc(r, func(p [2]int) bool {
+		return !relatedByDefinition(s.Functor, s.Next[p[0]], t.Next[p[1]], r)
+	})
+}
