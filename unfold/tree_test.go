@@ -428,23 +428,24 @@ func TestMemory(t *testing.T) {
 			s.Next = append(s.Next, num(77))[:len(s.Next)]
 			return s
 		}
-		s, seen := build(), map[uintptr]bool{}
-		for _, v := range s.Next {
-			remember(t, seen, v)
-		}
+		s := build()
+		results := slices.Clone(s.Next)
 		for x := range s.Next {
-			v := must(Unfold(s, x, 3))
-			remember(t, seen, v)
-			remember(t, seen, must(Unfold(s, x, 3)))
-			before := must(Unfold(s, x, 3))
+			v, before := must(Unfold(s, x, 3)), must(Unfold(s, x, 3))
+			results = append(results, v, before)
 			for less := range 4 {
-				remember(t, seen, must(Cut(s.Functor, 3, v, less)))
+				results = append(results, must(Cut(s.Functor, 3, v, less)))
 			}
 			must(String(s.Functor, 3, v))
 			must(Equal(s, s, x, 0, 3))
 			if !reflect.DeepEqual(v, before) {
 				t.Errorf("%q: the tree of %d was changed", text, x)
 			}
+		}
+		// All results are kept until here: the memory of one that is not may be used again.
+		seen := map[uintptr]bool{}
+		for _, v := range results {
+			remember(t, seen, v)
 		}
 		if u := build(); !reflect.DeepEqual(s, u) || s.Next[:len(s.Next)+1][len(s.Next)].N != 77 {
 			t.Errorf("%q: the system was changed", text)
