@@ -1,18 +1,13 @@
 package value
 
 import (
-	"strconv"
-
 	"ectype/api"
+	"ectype/scan"
 )
 
-// end stands for the end of the text: no token begins with a blank.
-const end = ' '
-
-// parser reads a text from the position at, and panics where it is no string of a value.
+// parser reads a value, and panics where the text is no string of one.
 type parser struct {
-	text string
-	at   int
+	*scan.Reader
 }
 
 // Parse returns the value whose string is s, in normal form.
@@ -23,37 +18,25 @@ func Parse(f api.Functor, n int, s string) (api.Value, api.Errno) {
 	if len(s) > api.MaxText {
 		return api.Value{}, api.ErrLarge
 	}
-	v, e := read(f, s)
-	if e != api.OK {
-		return api.Value{}, e
+	// Numbers and lists of any lengths are read: Normal says which ones are valid.
+	v, ok := scan.All(s, func(r *scan.Reader) api.Value { return parser{r}.value(f) })
+	if !ok {
+		return api.Value{}, api.ErrText
 	}
 	return Normal(f, n, v)
 }
 
-// read returns the tree whose string is s, by the tokens alone: numbers, and lists of any lengths.
-func read(f api.Functor, s string) (v api.Value, e api.Errno) {
-	defer func() {
-		if recover() != nil {
-			v, e = api.Value{}, api.ErrText
-		}
-	}()
-	p := &parser{text: s}
-	v = p.value(f)
-	p.take(end)
-	return v, api.OK
-}
-
 // value reads a value of f.
-func (p *parser) value(f api.Functor) (v api.Value) {
+func (p parser) value(f api.Functor) (v api.Value) {
 	switch f.Kind {
 	case api.FId, api.FConst:
-		v.N = p.number()
+		v.N = p.Number()
 	case api.FProd:
-		p.take('(')
+		p.Take('(')
 		left := p.value(f.Args[0])
-		p.take(',')
+		p.Take(',')
 		right := p.value(f.Args[1])
-		p.take(')')
+		p.Take(')')
 		v.Args = []api.Value{left, right}
 	case api.FSum:
 		v.N = p.side()
@@ -65,73 +48,32 @@ func (p *parser) value(f api.Functor) (v api.Value) {
 	case api.FBag, api.FDist:
 		p.list('{', '}', func() {
 			v.Args = append(v.Args, p.value(f.Args[0]))
-			p.take(':')
-			v.Weights = append(v.Weights, p.number())
+			p.Take(':')
+			v.Weights = append(v.Weights, p.Number())
 		})
 	}
 	return v
 }
 
 // list reads elements between brackets, with commas between them.
-func (p *parser) list(first, last byte, element func()) {
-	p.take(first)
-	if p.peek() != last {
+func (p parser) list(first, last byte, element func()) {
+	p.Take(first)
+	if p.Peek() != last {
 		element()
-		for p.peek() == ',' {
-			p.take(',')
+		for p.Peek() == ',' {
+			p.Take(',')
 			element()
 		}
 	}
-	p.take(last)
+	p.Take(last)
 }
 
 // side reads which part of a sum follows: 0 for the left one, 1 for the right one.
-func (p *parser) side() int {
-	if p.peek() == 'l' {
-		p.take('l')
+func (p parser) side() int {
+	if p.Peek() == 'l' {
+		p.Take('l')
 		return 0
 	}
-	p.take('r')
+	p.Take('r')
 	return 1
-}
-
-// number reads a number.
-func (p *parser) number() int {
-	if !isDigit(p.peek()) {
-		panic(api.ErrText)
-	}
-	first := p.at
-	for p.at < len(p.text) && isDigit(p.text[p.at]) {
-		p.at++
-	}
-	digits := p.text[first:p.at]
-	if digits[0] == '0' && len(digits) > 1 {
-		panic(api.ErrText)
-	}
-	// Next to its error, Atoi returns the greatest int for a greater number, which is what such a number counts as.
-	n, _ := strconv.Atoi(digits)
-	return n
-}
-
-// take reads a token of one byte, or the end.
-func (p *parser) take(token byte) {
-	if p.peek() != token {
-		panic(api.ErrText)
-	}
-	p.at++
-}
-
-// peek skips blanks and returns the byte that comes next, or end.
-func (p *parser) peek() byte {
-	for p.at < len(p.text) && p.text[p.at] == ' ' {
-		p.at++
-	}
-	if p.at == len(p.text) {
-		return end
-	}
-	return p.text[p.at]
-}
-
-func isDigit(b byte) bool {
-	return '0' <= b && b <= '9'
 }
