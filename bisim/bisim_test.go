@@ -81,12 +81,12 @@ func TestLargest(t *testing.T) {
 
 // samples calls do with pairs of small systems, in which there are bisimulations or not.
 func samples(many int, do func(d *dice, s, t api.System)) {
-	d := dice(5)
+	d := dice{5}
 	for _, f := range functors {
 		for range many {
-			s := d.system(f, 2)
-			do(&d, s, d.system(f, 3))
-			t, _ := d.cover(s, 3)
+			s := d.System(f, 2)
+			do(&d, s, d.System(f, 3))
+			t, _ := d.Cover(s, 3)
 			do(&d, s, t)
 			do(&d, t, s)
 		}

@@ -12,14 +12,14 @@ import (
 
 // TestBehavior checks that the largest bisimulation consists of the pairs that behave alike, by homomorphisms and by unfoldings.
 func TestBehavior(t *testing.T) {
-	d := dice(8)
+	d := dice{8}
 	some, many := 0, 0
 	for _, f := range functors {
 		for i := range 12 {
-			s := d.system(f, 1+d.below(5))
-			u, _ := d.cover(s, len(s.Next)+d.below(5))
+			s := d.System(f, 1+d.Below(5))
+			u, _ := d.Cover(s, len(s.Next)+d.Below(5))
 			if i%3 == 0 {
-				u = d.system(f, 1+d.below(5))
+				u = d.System(f, 1+d.Below(5))
 			}
 			l := must(Largest(s, u))
 			depth := len(s.Next) + len(u.Next)
@@ -42,10 +42,10 @@ func TestBehavior(t *testing.T) {
 
 // TestBehaviorInLargeSystems has as many states as there may be, and many that behave alike.
 func TestBehaviorInLargeSystems(t *testing.T) {
-	d := dice(9)
+	d := dice{9}
 	for _, f := range []string{"2 * X ^ 2", "P(X)", "B(1 + X)", "2 * D(X)", "P(D(1 + X))"} {
-		s := d.system(f, 20)
-		u, h := d.cover(s, 100)
+		s := d.System(f, 20)
+		u, h := d.Cover(s, 100)
 		classes := must(equiv.Classes(s))
 		l := must(Largest(u, s))
 		if !slices.Equal(l, slices.DeleteFunc(allPairs(100, 20), func(p [2]int) bool { return classes[h[p[0]]] != classes[p[1]] })) {
@@ -67,7 +67,7 @@ func union(r, q [][2]int) [][2]int {
 func TestOperationsOnBisimulations(t *testing.T) {
 	proper := 0
 	samples(12, func(d *dice, s, u api.System) {
-		v, _ := d.cover(u, 4)
+		v, _ := d.Cover(u, 4)
 		n, m := len(s.Next), len(u.Next)
 		one, two, next := must(Within(s, u, d.relation(n, m, 3))), must(Within(s, u, d.relation(n, m, 3))), must(Within(u, v, d.relation(m, 4, 3)))
 		if !must(Is(s, u, union(one, two))) {
@@ -125,10 +125,10 @@ func TestGraphsOfFunctions(t *testing.T) {
 
 func TestQuotients(t *testing.T) {
 	count := map[bool]int{}
-	d := dice(10)
+	d := dice{10}
 	for _, f := range functors {
 		for range 6 {
-			s, _ := d.cover(d.system(f, 1+d.below(3)), 4)
+			s, _ := d.Cover(d.System(f, 1+d.Below(3)), 4)
 			for _, to := range functions(4, 4) {
 				_, e := system.Quotient(s, to)
 				if e == api.ErrArg {
@@ -150,10 +150,10 @@ func TestQuotients(t *testing.T) {
 
 // TestClosureOfBisimulations checks that the classes of a bisimulation from a system to itself are those of a quotient.
 func TestClosureOfBisimulations(t *testing.T) {
-	d := dice(11)
+	d := dice{11}
 	for _, f := range functors {
 		for range 12 {
-			s, _ := d.cover(d.system(f, 1+d.below(3)), 6)
+			s, _ := d.Cover(d.System(f, 1+d.Below(3)), 6)
 			r := must(Within(s, s, d.relation(6, 6, 2)))
 			if _, e := system.Quotient(s, must(Closure(s, r))); e != api.OK {
 				t.Fatalf("%s by %v: error %d", written(s), r, e)

@@ -95,13 +95,13 @@ func inverse(r [][2]int) [][2]int {
 
 // TestRelatedByDefinition compares some values by all relations between two and three states.
 func TestRelatedByDefinition(t *testing.T) {
-	d := dice(1)
+	d := dice{1}
 	all := relations(2, 3)
 	for _, name := range functors {
 		f := typed(name)
 		count := map[bool]int{}
 		for range 40 {
-			u, v := d.thrown(f, 2), d.thrown(f, 3)
+			u, v := d.Value(f, 2), d.Value(f, 3)
 			for _, r := range all {
 				want := relatedByDefinition(f, u, v, r)
 				count[want]++
@@ -121,18 +121,18 @@ func TestRelatedByDefinition(t *testing.T) {
 
 // TestManyElementsByDefinition has collections of more elements, where weights have to be moved along longer paths.
 func TestManyElementsByDefinition(t *testing.T) {
-	d := dice(2)
+	d := dice{2}
 	count := map[string]int{}
 	for range 3000 {
-		n, m := 1+d.below(5), 1+d.below(5)
-		u, v, weights := api.Value{}, api.Value{}, 1+d.below(3)
+		n, m := 1+d.Below(5), 1+d.Below(5)
+		u, v, weights := api.Value{}, api.Value{}, 1+d.Below(3)
 		for x := range n {
-			u.Args, u.Weights = append(u.Args, api.Value{N: x}), append(u.Weights, 1+d.below(weights))
+			u.Args, u.Weights = append(u.Args, api.Value{N: x}), append(u.Weights, 1+d.Below(weights))
 		}
 		for y := range m {
-			v.Args, v.Weights = append(v.Args, api.Value{N: y}), append(v.Weights, 1+d.below(weights))
+			v.Args, v.Weights = append(v.Args, api.Value{N: y}), append(v.Weights, 1+d.Below(weights))
 		}
-		r := d.relation(n, m, 1+d.below(4))
+		r := d.relation(n, m, 1+d.Below(4))
 		for _, name := range []string{"B(X)", "D(X)"} {
 			f := typed(name)
 			u, v := must(value.Normal(f, n, u)), must(value.Normal(f, m, v))
@@ -181,18 +181,18 @@ func TestLongPaths(t *testing.T) {
 
 // TestLargeWeights compares distributions by the relation of a to each b up to a: it relates them if at each b the left one has not had more before than the right one.
 func TestLargeWeights(t *testing.T) {
-	d := dice(3)
+	d := dice{3}
 	f := typed("D(X)")
 	stairs := slices.DeleteFunc(allPairs(100, 100), func(p [2]int) bool { return p[0] < p[1] })
 	count := map[bool]int{}
 	for i := range 300 {
-		n, m := 2+d.below(99), 2+d.below(99)
+		n, m := 2+d.Below(99), 2+d.Below(99)
 		u, v := spread(make([]int, n)...), spread(make([]int, m)...)
 		for x := range n {
-			u.Weights[x] = 1 + d.below(100)*(i%100) + x*d.below(60)
+			u.Weights[x] = 1 + d.Below(100)*(i%100) + x*d.Below(60)
 		}
 		for y := range m {
-			v.Weights[y] = 1 + d.below(100)*(i%100)
+			v.Weights[y] = 1 + d.Below(100)*(i%100)
 		}
 		u, v = must(value.Normal(f, 100, u)), must(value.Normal(f, 100, v))
 		allU, allV, beforeU, beforeV := 0, 0, 0, 0
@@ -251,7 +251,7 @@ func TestAlmostEqualProbabilities(t *testing.T) {
 
 // TestLargeValues has values with many nodes, with as many pairs of elements at each level as possible.
 func TestLargeValues(t *testing.T) {
-	d := dice(4)
+	d := dice{4}
 	for _, name := range []string{"P(P(X))", "B(B(X))", "D(D(X))", "P(D(X))", "P(P(P(P(P(P(P(X)))))))"} {
 		f := typed(name)
 		_, depth := functor.Size(f)
@@ -271,7 +271,7 @@ func TestLargeValues(t *testing.T) {
 			t.Errorf("%s: pairs of equal states", name)
 		}
 		used := must(value.States(f, 100, v))
-		if x := used[d.below(len(used))]; must(Related(f, 100, 100, v, v, slices.Delete(same, x, x+1))) {
+		if x := used[d.Below(len(used))]; must(Related(f, 100, 100, v, v, slices.Delete(same, x, x+1))) {
 			t.Errorf("%s: pairs of equal states without %d", name, x)
 		}
 	}
@@ -280,13 +280,13 @@ func TestLargeValues(t *testing.T) {
 // nested returns a value of collections of so many elements.
 func nested(d *dice, f api.Functor, elements int) api.Value {
 	if f.Kind == api.FId {
-		return api.Value{N: d.below(100)}
+		return api.Value{N: d.Below(100)}
 	}
 	var v api.Value
 	for range elements {
 		v.Args = append(v.Args, nested(d, f.Args[0], elements))
 		if f.Kind != api.FPow {
-			v.Weights = append(v.Weights, 1+d.below(9))
+			v.Weights = append(v.Weights, 1+d.Below(9))
 		}
 	}
 	return v

@@ -31,12 +31,12 @@ func TestCompose(t *testing.T) {
 }
 
 func TestComposeByDefinition(t *testing.T) {
-	d := dice(6)
+	d := dice{6}
 	for range 500 {
 		var lists [2][][2]int
 		for i := range lists {
-			for range d.below(12) {
-				lists[i] = append(lists[i], [2]int{d.below(7) - 3, d.below(7) - 3})
+			for range d.Below(12) {
+				lists[i] = append(lists[i], [2]int{d.Below(7) - 3, d.Below(7) - 3})
 			}
 		}
 		var want [][2]int
@@ -101,10 +101,10 @@ func TestClosure(t *testing.T) {
 
 // TestClosureByDefinition compares the classes with what is reached by the pairs in both directions, in any number of steps.
 func TestClosureByDefinition(t *testing.T) {
-	d := dice(7)
+	d := dice{7}
 	for range 300 {
-		n := 1 + d.below(9)
-		r := slices.DeleteFunc(d.relation(n, n, 4), func([2]int) bool { return d.below(n) > 0 })
+		n := 1 + d.Below(9)
+		r := slices.DeleteFunc(d.relation(n, n, 4), func([2]int) bool { return d.Below(n) > 0 })
 		reached := make([][]bool, n)
 		for x := range reached {
 			reached[x] = make([]bool, n)
@@ -129,7 +129,7 @@ func TestClosureByDefinition(t *testing.T) {
 			want = append(want, classes)
 			classes++
 		}
-		if got := must(Closure(d.system("2 * P(X)", n), r)); !slices.Equal(got, want) {
+		if got := must(Closure(d.System("2 * P(X)", n), r)); !slices.Equal(got, want) {
 			t.Fatalf("%d states by %v: %v, not %v", n, r, got, want)
 		}
 	}

@@ -59,7 +59,7 @@ func swing(more int) api.System {
 
 // TestDepthOfTheOrder checks that elements are read in the order of the unfoldings to the depth that is the number of states.
 func TestDepthOfTheOrder(t *testing.T) {
-	d := dice(3)
+	d := dice{3}
 	for more := range 9 {
 		s := swing(more)
 		c := must(Canonical(s, 0))
@@ -82,7 +82,7 @@ func TestDepthOfTheOrder(t *testing.T) {
 			if len(must(Classes(u))) != 7+more+unreached || !system.Same(must(Canonical(u, 0)), c) {
 				t.Errorf("%d more states and %d unreached ones", more, unreached)
 			}
-			v, h := d.cover(s, 7+more+unreached)
+			v, h := d.Cover(s, 7+more+unreached)
 			if x := slices.Index(h, 0); !system.Same(must(Canonical(v, x)), c) {
 				t.Errorf("%d more states and %d that are alike", more, unreached)
 			}
@@ -194,7 +194,7 @@ func TestCanonicalOfAlikeStates(t *testing.T) {
 			}
 		}
 		u, to := d.permuted(s)
-		v, h := d.cover(s, 15)
+		v, h := d.Cover(s, 15)
 		for x := range s.Next {
 			if c := must(Canonical(u, to[x])); !system.Same(c, l[x]) {
 				t.Fatalf("%d of %s and %d of %s: %s and %s", x, written(s), to[x], written(u), written(l[x]), written(c))
@@ -210,10 +210,10 @@ func TestCanonicalOfAlikeStates(t *testing.T) {
 
 // TestLargeCanonicalSystems has systems of 100 states whose unfoldings have more nodes than any tree may have.
 func TestLargeCanonicalSystems(t *testing.T) {
-	d := dice(4)
+	d := dice{4}
 	pairs := api.System{Functor: typed("P(X) * (X * X)")}
 	for x := range 100 {
-		set, pair := api.Value{Args: []api.Value{{N: (x + 7) % 100}}}, api.Value{Args: []api.Value{{N: d.below(100)}, {N: d.below(100)}}}
+		set, pair := api.Value{Args: []api.Value{{N: (x + 7) % 100}}}, api.Value{Args: []api.Value{{N: d.Below(100)}, {N: d.Below(100)}}}
 		if x == 50 {
 			set = api.Value{}
 		}

@@ -37,8 +37,8 @@ func TestMinimal(t *testing.T) {
 // TestMinimality checks all homomorphisms from small systems: none is onto a system with fewer states, or maps states of the minimal system to one.
 func TestMinimality(t *testing.T) {
 	thrownSystems(30, 4, func(d *dice, s api.System) {
-		if d.below(2) == 0 {
-			s, _ = d.cover(s, 5)
+		if d.Below(2) == 0 {
+			s, _ = d.Cover(s, 5)
 		}
 		m, classes, e := Minimal(s)
 		if e != api.OK || !slices.Equal(classes, must(Classes(s))) || !must(system.Is(s, m, classes)) {
@@ -69,14 +69,14 @@ func TestMinimality(t *testing.T) {
 }
 
 func TestLargeMinimalSystems(t *testing.T) {
-	d := dice(5)
+	d := dice{5}
 	for _, s := range []api.System{chain(100, 1), ring(0), ordinals(1), swing(93)} {
 		if m, classes, e := Minimal(s); e != api.OK || !system.Same(m, s) || slices.Max(classes) != 99 || !slices.IsSorted(classes) {
 			t.Errorf("%.60q: %v, error %d", written(s), classes, e)
 		}
 	}
 	for range 5 {
-		c, h := d.cover(swing(3), 100)
+		c, h := d.Cover(swing(3), 100)
 		if m, classes, e := Minimal(c); e != api.OK || len(m.Next) != 10 || !slices.Equal(classes, numbered(h)) {
 			t.Errorf("%v, error %d", classes, e)
 		}

@@ -104,12 +104,12 @@ func checkRounds(t *testing.T, s api.System) {
 func TestRoundsByDefinition(t *testing.T) {
 	thrownSystems(15, 5, func(d *dice, s api.System) {
 		checkRounds(t, s)
-		cover, _ := d.cover(s, len(s.Next)+2)
+		cover, _ := d.Cover(s, len(s.Next)+2)
 		checkRounds(t, cover)
 	})
-	d := dice(2)
+	d := dice{2}
 	for _, f := range functors {
-		checkRounds(t, d.system(f, 10))
+		checkRounds(t, d.System(f, 10))
 	}
 }
 
@@ -190,7 +190,7 @@ func TestAlike(t *testing.T) {
 // TestAlikeByDefinition compares states of two systems by the homomorphisms from the sum of both.
 func TestAlikeByDefinition(t *testing.T) {
 	thrownSystems(30, 3, func(d *dice, s api.System) {
-		u := d.system(must(functor.String(s.Functor)), 1+d.below(3))
+		u := d.System(must(functor.String(s.Functor)), 1+d.Below(3))
 		alike := behaveAlike(must(system.Sum(s, u)))
 		for x := range s.Next {
 			for y := range u.Next {
@@ -204,7 +204,7 @@ func TestAlikeByDefinition(t *testing.T) {
 
 func TestAlikeInCovers(t *testing.T) {
 	thrownSystems(8, 4, func(d *dice, s api.System) {
-		c, h := d.cover(s, 12)
+		c, h := d.Cover(s, 12)
 		if !must(system.Is(c, s, h)) {
 			t.Fatalf("%s is no cover of %s along %v", written(c), written(s), h)
 		}

@@ -7,8 +7,8 @@ import (
 
 	"ectype/api"
 	"ectype/functor"
+	"ectype/sample"
 	"ectype/system"
-	"ectype/value"
 )
 
 // coins is the system of the second example of DOC.md.
@@ -69,14 +69,8 @@ func ordinals(inputs int) api.System {
 	return s
 }
 
-// dice are numbers that look random, always the same ones from the same start.
-type dice uint64
-
-// below returns a number from 0 to n - 1.
-func (d *dice) below(n int) int {
-	*d = *d*6364136223846793005 + 1442695040888963407
-	return int(uint64(*d)>>33) % n
-}
+// dice throw values and systems.
+type dice struct{ sample.Dice }
 
 // functors are the functors of which systems are thrown: each kind, and combinations of them.
 var functors = []string{
@@ -84,106 +78,21 @@ var functors = []string{
 	"B(X)", "B(1 + X)", "2 * B(X)", "B(X) + X", "D(X)", "2 * D(X)", "1 + D(X)", "D(X + 2)", "D(P(X))", "P(D(1 + X))", "B(P(X))", "(1 + P(X)) ^ 2",
 }
 
-// thrown returns some value of f over n states. Collections have at most three elements, and small weights.
-func (d *dice) thrown(f api.Functor, n int) api.Value {
-	return must(value.Normal(f, n, d.raw(f, n)))
-}
-
-func (d *dice) raw(f api.Functor, n int) api.Value {
-	var v api.Value
-	parts := slices.Clone(f.Args)
-	switch f.Kind {
-	case api.FId:
-		v.N = d.below(n)
-	case api.FConst:
-		v.N = d.below(f.N)
-	case api.FSum:
-		v.N = d.below(2)
-		parts = parts[v.N : v.N+1]
-	case api.FExp:
-		parts = slices.Repeat(parts, f.N)
-	case api.FPow, api.FBag:
-		parts = slices.Repeat(parts, d.below(4))
-	case api.FDist:
-		parts = slices.Repeat(parts, 1+d.below(3))
-	}
-	for _, g := range parts {
-		v.Args = append(v.Args, d.raw(g, n))
-		if f.Kind == api.FBag || f.Kind == api.FDist {
-			v.Weights = append(v.Weights, 1+d.below(2))
-		}
-	}
-	return v
-}
-
-// system returns some system of f with n states.
-func (d *dice) system(f string, n int) api.System {
-	s := api.System{Functor: typed(f)}
-	for range n {
-		s.Next = append(s.Next, d.thrown(s.Functor, n))
-	}
-	return s
-}
-
 // permuted returns a system with the states of s in another order, and the new number of each state.
 func (d *dice) permuted(s api.System) (api.System, []int) {
 	var to []int
 	for x := range s.Next {
-		to = slices.Insert(to, d.below(x+1), x)
+		to = slices.Insert(to, d.Below(x+1), x)
 	}
 	return must(system.Quotient(s, to)), to
 }
 
-// cover returns a system with n states, at least as many as s has, and a homomorphism from it to s.
-func (d *dice) cover(s api.System, n int) (api.System, []int) {
-	h := make([]int, n)
-	above := make([][]int, len(s.Next))
-	for x := range h {
-		if h[x] = x; x >= len(s.Next) {
-			h[x] = d.below(len(s.Next))
-		}
-		above[h[x]] = append(above[h[x]], x)
-	}
-	c := api.System{Functor: s.Functor}
-	for _, y := range h {
-		c.Next = append(c.Next, must(value.Normal(s.Functor, n, d.lifted(s.Functor, s.Next[y], above))))
-	}
-	return c, h
-}
-
-// lifted returns v with some state above each of its states; elements of collections are split.
-func (d *dice) lifted(f api.Functor, v api.Value, above [][]int) api.Value {
-	if f.Kind == api.FId {
-		return api.Value{N: above[v.N][d.below(len(above[v.N]))]}
-	}
-	w := api.Value{N: v.N}
-	for i, a := range v.Args {
-		g := partOf(f, v, i)
-		w.Args = append(w.Args, d.lifted(g, a, above))
-		switch f.Kind {
-		case api.FPow:
-			w.Args = append(w.Args, d.lifted(g, a, above))
-		case api.FBag, api.FDist:
-			all, part := v.Weights[i], 0
-			if f.Kind == api.FDist {
-				all *= 3
-			}
-			if all > 1 {
-				part = 1 + d.below(all-1)
-				w.Args, w.Weights = append(w.Args, d.lifted(g, a, above)), append(w.Weights, part)
-			}
-			w.Weights = append(w.Weights, all-part)
-		}
-	}
-	return w
-}
-
 // thrownSystems calls do with some systems of each of the functors, with 1 to most states.
 func thrownSystems(many, most int, do func(d *dice, s api.System)) {
-	d := dice(1)
+	d := dice{1}
 	for _, f := range functors {
 		for i := range many {
-			do(&d, d.system(f, 1+i%most))
+			do(&d, d.System(f, 1+i%most))
 		}
 	}
 }
