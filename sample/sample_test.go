@@ -4,6 +4,8 @@ import (
 	"testing"
 
 	"ectype/api"
+	"ectype/functor"
+	"ectype/logic"
 	"ectype/system"
 )
 
@@ -31,6 +33,25 @@ func TestCoversAreHomomorphisms(t *testing.T) {
 				t.Errorf("%s: %v is no homomorphism from a system of %d states: error %d", f, h, len(c.Next), e)
 			}
 		}
+	}
+}
+
+func TestFormulasAreValid(t *testing.T) {
+	d := Dice(4)
+	steps := 0
+	for _, text := range functors {
+		f, _ := functor.Parse(text)
+		for i := range 100 {
+			a := d.Formula(f, 1+i%20)
+			_, depth, k := logic.Size(a)
+			if logic.Check(f, a) != api.OK || depth > 1+i%20 {
+				t.Errorf("%s: %v is no formula of a depth of at most %d", text, a, 1+i%20)
+			}
+			steps = max(steps, k)
+		}
+	}
+	if steps < 4 {
+		t.Errorf("no formula has more than %d steps within each other", steps)
 	}
 }
 
