@@ -5,6 +5,7 @@ import (
 	"slices"
 
 	"ectype/api"
+	"ectype/fold"
 	"ectype/functor"
 	"ectype/sample"
 	"ectype/system"
@@ -61,17 +62,6 @@ var functors = []string{
 	"B(X)", "B(1 + X)", "2 * B(X)", "B(X) + X", "D(X)", "2 * D(X)", "1 + D(X)", "D(X + 2)", "D(P(X))", "P(D(X))", "B(P(X))", "P(B(X))", "D(B(X))", "(1 + P(X)) ^ 2",
 }
 
-// partOf returns the functor of the Args at i of v, a value of f.
-func partOf(f api.Functor, v api.Value, i int) api.Functor {
-	switch f.Kind {
-	case api.FProd:
-		return f.Args[i]
-	case api.FSum:
-		return f.Args[v.N]
-	}
-	return f.Args[0]
-}
-
 // relation returns some pairs of n and m states: each one with a probability of most quarters.
 func (d *dice) relation(n, m, most int) [][2]int {
 	var r [][2]int
@@ -108,7 +98,7 @@ func relatedByDefinition(f api.Functor, u, v api.Value, r [][2]int) bool {
 	if f.Kind < api.FPow {
 		is := u.N == v.N
 		for i := range u.Args {
-			is = is && relatedByDefinition(partOf(f, u, i), u.Args[i], v.Args[i], r)
+			is = is && relatedByDefinition(fold.Part(f, u, i), u.Args[i], v.Args[i], r)
 		}
 		return is
 	}

@@ -5,6 +5,7 @@ import (
 	"slices"
 
 	"ectype/api"
+	"ectype/fold"
 	"ectype/functor"
 	"ectype/value"
 )
@@ -92,7 +93,7 @@ func (d *Dice) lifted(f api.Functor, v api.Value, above [][]int) api.Value {
 	}
 	w := api.Value{N: v.N}
 	for i, a := range v.Args {
-		g := partOf(f, v, i)
+		g := fold.Part(f, v, i)
 		w.Args = append(w.Args, d.lifted(g, a, above))
 		switch f.Kind {
 		case api.FPow:
@@ -110,15 +111,4 @@ func (d *Dice) lifted(f api.Functor, v api.Value, above [][]int) api.Value {
 		}
 	}
 	return w
-}
-
-// partOf returns the functor of the Args at i of v, a value of f.
-func partOf(f api.Functor, v api.Value, i int) api.Functor {
-	switch f.Kind {
-	case api.FProd:
-		return f.Args[i]
-	case api.FSum:
-		return f.Args[v.N]
-	}
-	return f.Args[0]
 }

@@ -2,6 +2,7 @@ package unfold
 
 import (
 	"ectype/api"
+	"ectype/fold"
 	"ectype/functor"
 	"ectype/value"
 )
@@ -38,11 +39,11 @@ func fits(f api.Functor, depth int, v api.Value) bool {
 		}
 		nodes--
 		for i, a := range v.Args {
-			if !visit(partOf(part, v, i), depth, a) {
+			if !visit(fold.Part(part, v, i), depth, a) {
 				return false
 			}
 		}
-		return !isCollection(part) || isIncreasing(v.Args)
+		return !fold.IsCollection(part) || isIncreasing(v.Args)
 	}
 	return visit(f, depth, v)
 }
@@ -91,22 +92,7 @@ func cut(f api.Functor, v api.Value, depth int) api.Value {
 	if depth == 0 {
 		return api.Value{}
 	}
-	return replaced(f, v, func(u api.Value) api.Value { return inPlace(cut(f, u.Args[0], depth-1)) })
-}
-
-// String returns the string of v.
-func String(f api.Functor, depth int, v api.Value) (string, api.Errno) {
-	if e := Check(f, depth, v); e != api.OK {
-		return "", e
-	}
-	return text(f, v, depth), api.OK
-}
-
-func text(f api.Functor, v api.Value, depth int) string {
-	if depth == 0 {
-		return "."
-	}
-	return written(f, v, func(u api.Value) string { return text(f, u.Args[0], depth-1) })
+	return fold.Replaced(f, v, func(u api.Value) api.Value { return inPlace(cut(f, u.Args[0], depth-1)) })
 }
 
 // inPlace returns what stands in the place of a state if its unfolding is v.

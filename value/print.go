@@ -5,6 +5,7 @@ import (
 	"strings"
 
 	"ectype/api"
+	"ectype/fold"
 )
 
 // String returns the string of v.
@@ -21,7 +22,7 @@ func String(f api.Functor, n int, v api.Value) (string, api.Errno) {
 			if i > 0 {
 				text.WriteString(", ")
 			}
-			visit(functorOf(i, f, v), a)
+			visit(fold.Part(f, v, i), a)
 			if len(v.Weights) > 0 {
 				text.WriteString(" : " + strconv.Itoa(v.Weights[i]))
 			}
