@@ -4,12 +4,14 @@ import (
 	"slices"
 
 	"ectype/api"
+	"ectype/fold"
+	"ectype/rounds"
 )
 
 // lastRanks returns the ranks of the states in the round whose number is that of the classes.
 func lastRanks(s api.System) []int {
 	var last []int
-	for k, ranks := range rounds(s) {
+	for k, ranks := range rounds.Ranks(s) {
 		// Up to the stable round there are more than k classes, and after it there are no more of them.
 		// Ranks may go on changing, but not if they are once the same as in the previous round.
 		classes := slices.Max(ranks) + 1
@@ -45,17 +47,6 @@ func eachState(f api.Functor, v api.Value, do func(x int)) {
 		do(v.N)
 	}
 	for i, a := range v.Args {
-		eachState(partOf(f, v, i), a, do)
+		eachState(fold.Part(f, v, i), a, do)
 	}
-}
-
-// partOf returns the functor of the Args at i of v, a value of f.
-func partOf(f api.Functor, v api.Value, i int) api.Functor {
-	switch f.Kind {
-	case api.FProd:
-		return f.Args[i]
-	case api.FSum:
-		return f.Args[v.N]
-	}
-	return f.Args[0]
 }

@@ -6,6 +6,7 @@ import (
 	"testing"
 
 	"ectype/api"
+	"ectype/fold"
 	"ectype/system"
 	"ectype/unfold"
 	"ectype/value"
@@ -128,7 +129,7 @@ func reading(f api.Functor, v api.Value, trees []api.Value) ([]int, api.Value) {
 	}
 	var l []element
 	for i, a := range v.Args {
-		read, tree := reading(partOf(f, v, i), a, trees)
+		read, tree := reading(fold.Part(f, v, i), a, trees)
 		l = append(l, element{read, tree, i})
 	}
 	if f.Kind >= api.FPow {

@@ -7,6 +7,7 @@ import (
 	"testing"
 
 	"ectype/api"
+	"ectype/rounds"
 	"ectype/system"
 )
 
@@ -77,7 +78,7 @@ func TestLargeMinimalSystems(t *testing.T) {
 	}
 	for range 5 {
 		c, h := d.Cover(swing(3), 100)
-		if m, classes, e := Minimal(c); e != api.OK || len(m.Next) != 10 || !slices.Equal(classes, numbered(h)) {
+		if m, classes, e := Minimal(c); e != api.OK || len(m.Next) != 10 || !slices.Equal(classes, rounds.Numbered(h)) {
 			t.Errorf("%v, error %d", classes, e)
 		}
 	}
