@@ -1,22 +1,23 @@
-package bisim
+// Package lift lifts relations between states to relations between values: for single values, and for the next values of the pairs of a relation.
+package lift
 
 import "ectype/api"
 
-// related reports whether u and v, values of f, are related by the relation of the pairs that isPair accepts.
-// It asks for no more pairs than it needs: those that were accepted are what largestWithin relies on.
-func related(f api.Functor, u, v api.Value, isPair func(x, y int) bool) bool {
+// Related reports whether u and v, values of f, are related by the relation of the pairs that isPair accepts.
+// It asks for no more pairs than it needs: if it is true, the values are related by those that were accepted alone.
+func Related(f api.Functor, u, v api.Value, isPair func(x, y int) bool) bool {
 	switch f.Kind {
 	case api.FId:
 		return isPair(u.N, v.N)
 	case api.FConst:
 		return u.N == v.N
 	case api.FProd:
-		return related(f.Args[0], u.Args[0], v.Args[0], isPair) && related(f.Args[1], u.Args[1], v.Args[1], isPair)
+		return Related(f.Args[0], u.Args[0], v.Args[0], isPair) && Related(f.Args[1], u.Args[1], v.Args[1], isPair)
 	case api.FSum:
-		return u.N == v.N && related(f.Args[u.N], u.Args[0], v.Args[0], isPair)
+		return u.N == v.N && Related(f.Args[u.N], u.Args[0], v.Args[0], isPair)
 	}
 	areRelated := remembered(len(u.Args), len(v.Args), func(a, b int) bool {
-		return related(f.Args[0], u.Args[a], v.Args[b], isPair)
+		return Related(f.Args[0], u.Args[a], v.Args[b], isPair)
 	})
 	switch f.Kind {
 	case api.FExp:

@@ -1,4 +1,4 @@
-package bisim
+package lift
 
 // moves are the numbers m(a, b): how much weight is moved from elements a on the left to related elements b on the right.
 type moves struct {
