@@ -29,21 +29,22 @@ func (t *teller) remembered(f api.Functor, elements []api.Value) func(i, j int) 
 	}
 }
 
-// more returns a formula that is true of u, as there is more in it than in v of something that some element of u is.
+// more returns a formula that is true of u and not of v, as it says how much there is in u of what some element of u is.
+// It returns nil if v has at least as much of each element as u, or if the formula is too large.
 func (t *teller) more(f api.Functor, u, v api.Value, elements []api.Value, tell func(i, j int) sides) *formula {
 	gains := gainsOf(f.Kind, u, v, elements)
 	var best *formula
 	for i, g := range gains {
 		if g > 0 {
-			best = smaller(best, t.inMost(f, u, t.narrowed(i, gains, elements, tell)))
+			best = smaller(best, t.asMuchAs(f, u, t.narrowed(i, gains, elements, tell)))
 		}
 	}
 	return best
 }
 
-// gainsOf returns for each element how much more of it is in u than in v, such that the sum of some gains is greater than 0
-// if and only if a formula that is true of just these elements can tell u from v. Distributions have a common denominator.
-// In a set an element cannot make up for another one, which outweighs all that are in u.
+// gainsOf returns for each element how much more of it is in u than in v, distributions with a common denominator.
+// If the sum of some gains is greater than 0, there is more in u than in v of what a formula is true of that is true of just these elements.
+// In a set one element is as good as many: an element of v outweighs all those that are only in u.
 func gainsOf(kind int, u, v api.Value, elements []api.Value) []int64 {
 	gains := make([]int64, len(elements))
 	add := func(w api.Value, factor int64) {
@@ -120,8 +121,8 @@ func (t *teller) kept(parts []*formula, gains []int64, elements []api.Value) (ke
 	return kept, gain
 }
 
-// inMost returns the formula that says that there is as much as in u of what a is true of.
-func (t *teller) inMost(f api.Functor, u api.Value, a *formula) *formula {
+// asMuchAs returns the formula that says that there is as much as in u of what a is true of.
+func (t *teller) asMuchAs(f api.Functor, u api.Value, a *formula) *formula {
 	if a == nil {
 		return nil
 	}
