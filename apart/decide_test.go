@@ -56,7 +56,7 @@ func TestDecide(t *testing.T) {
 		if alike := checkVerdict(t, s, s, c.x, c.y); alike != c.alike {
 			t.Errorf("%q: %d and %d: %v", c.system, c.x, c.y, alike)
 		}
-		parts(must(Decide(s, s, c.x, c.y)).Formula, func(l []api.Formula) {
+		sample.Lists(must(Decide(s, s, c.x, c.y)).Formula, func(l []api.Formula) {
 			if a := l[0]; a.Op == api.LShare && fold.Divisor([]int{a.N, a.M}) != 1 {
 				t.Errorf("%q: %d and %d: a share of %d / %d", c.system, c.x, c.y, a.N, a.M)
 			}

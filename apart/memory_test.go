@@ -9,22 +9,12 @@ import (
 	"ectype/sample"
 )
 
-// parts calls do with each list of parts of a formula that is not empty.
-func parts(a api.Formula, do func(l []api.Formula)) {
-	if len(a.Args) > 0 {
-		do(a.Args)
-	}
-	for _, b := range a.Args {
-		parts(b, do)
-	}
-}
-
 // TestMemoryOfResults checks that no two results, and no two parts of one, share memory. All results are kept, so that no memory is used again.
 func TestMemoryOfResults(t *testing.T) {
 	formulas, relations := map[*api.Formula]bool{}, map[*[2]int]bool{}
 	lists := 0
 	addFormula := func(a api.Formula) {
-		parts(a, func(l []api.Formula) {
+		sample.Lists(a, func(l []api.Formula) {
 			if formulas[&l[0]] {
 				t.Fatalf("%v shares its memory", a)
 			}

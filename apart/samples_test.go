@@ -1,32 +1,21 @@
 package apart
 
 import (
-	"fmt"
 	"slices"
 	"testing"
 
 	"ectype/api"
 	"ectype/bisim"
-	"ectype/functor"
 	"ectype/logic"
 	"ectype/sample"
-	"ectype/system"
 )
 
-// coins is the system of the second example of DOC.md.
-const coins = "type 2 * D(X)\n0 = (0, {1 : 1, 2 : 2})\n1 = (1, {1 : 1})\n2 = (1, {2 : 1})\n"
+// What package sample has, by shorter names.
+const coins = sample.Coins
 
-// must returns the result of a call that has to succeed.
-func must[R any](r R, e api.Errno) R {
-	if e != api.OK {
-		panic(fmt.Sprint("error ", e))
-	}
-	return r
-}
+var typed, of, written, states, cycle = sample.Functor, sample.System, sample.Text, sample.States, sample.Cycle
 
-func typed(s string) api.Functor  { return must(functor.Parse(s)) }
-func of(text string) api.System   { return must(system.Parse(text)) }
-func written(s api.System) string { return must(system.String(s)) }
+func must[R any](r R, e api.Errno) R { return sample.Must(r, e) }
 
 // parsed returns the formula for f with this string.
 func parsed(f api.Functor, s string) api.Formula { return must(logic.Parse(f, s)) }
@@ -38,25 +27,6 @@ func pairs(l ...int) [][2]int {
 		r = append(r, [2]int{l[i], l[i+1]})
 	}
 	return r
-}
-
-// states returns the system of a functor in which the states have these next values.
-func states(f string, next ...string) api.System {
-	text := "type " + f + "\n"
-	for x, v := range next {
-		text += fmt.Sprintf("%d = %s\n", x, v)
-	}
-	return of(text)
-}
-
-// cycle returns a system of 2 * X in which so many states follow each other, the first one the last one. Only one has the output 1.
-func cycle(many, one int) api.System {
-	next := make([]string, many)
-	for x := range next {
-		next[x] = fmt.Sprintf("(0, %d)", (x+1)%many)
-	}
-	next[one] = fmt.Sprintf("(1, %d)", (one+1)%many)
-	return states("2 * X", next...)
 }
 
 // sets returns a system of P(X), from the elements of the set of each state.

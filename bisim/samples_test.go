@@ -6,25 +6,15 @@ import (
 
 	"ectype/api"
 	"ectype/fold"
-	"ectype/functor"
 	"ectype/sample"
-	"ectype/system"
 )
 
-// coins is the system of the second example of DOC.md.
-const coins = "type 2 * D(X)\n0 = (0, {1 : 1, 2 : 2})\n1 = (1, {1 : 1})\n2 = (1, {2 : 1})\n"
+// What package sample has, by shorter names.
+const coins = sample.Coins
 
-// must returns the result of a call that has to succeed.
-func must[R any](r R, e api.Errno) R {
-	if e != api.OK {
-		panic(fmt.Sprint("error ", e))
-	}
-	return r
-}
+var typed, of, written, states = sample.Functor, sample.System, sample.Text, sample.States
 
-func typed(s string) api.Functor  { return must(functor.Parse(s)) }
-func of(text string) api.System   { return must(system.Parse(text)) }
-func written(s api.System) string { return must(system.String(s)) }
+func must[R any](r R, e api.Errno) R { return sample.Must(r, e) }
 
 // pairs returns a relation from the components of its pairs, one after the other.
 func pairs(l ...int) [][2]int {
@@ -33,15 +23,6 @@ func pairs(l ...int) [][2]int {
 		r = append(r, [2]int{l[i], l[i+1]})
 	}
 	return r
-}
-
-// states returns the system of a functor in which the states have these next values.
-func states(f string, next ...string) api.System {
-	text := "type " + f + "\n"
-	for x, v := range next {
-		text += fmt.Sprintf("%d = %s\n", x, v)
-	}
-	return of(text)
 }
 
 // chain returns a system of 2 * X whose states are followed by each other; only the last one, which is followed by itself, has the output last.

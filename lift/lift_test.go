@@ -12,13 +12,8 @@ import (
 	"ectype/value"
 )
 
-// must returns the result of a call that has to succeed.
-func must[R any](r R, e api.Errno) R {
-	if e != api.OK {
-		panic(fmt.Sprint("error ", e))
-	}
-	return r
-}
+// What package sample has, by shorter names.
+func must[R any](r R, e api.Errno) R { return sample.Must(r, e) }
 
 func TestRelated(t *testing.T) {
 	for _, c := range []struct {

@@ -201,33 +201,6 @@ func TestHugeTrees(t *testing.T) {
 	}
 }
 
-// changed returns a with a change of one of its nodes.
-func changed(d *sample.Dice, a api.Formula) api.Formula {
-	if len(a.Args) > 0 && d.Below(3) > 0 {
-		a.Args = slices.Clone(a.Args)
-		i := d.Below(len(a.Args))
-		a.Args[i] = changed(d, a.Args[i])
-		return a
-	}
-	switch d.Below(6) {
-	case 0:
-		a.Op = d.Below(api.LVar+3) - 1
-	case 1:
-		a.N += d.Below(3) - 1
-	case 2:
-		a.M += d.Below(3) - 1
-	case 3:
-		a.Args = append(slices.Clone(a.Args), top)
-	case 4:
-		a = node(1+d.Below(api.LVar), a)
-	case 5:
-		if len(a.Args) > 0 {
-			a = a.Args[0]
-		}
-	}
-	return a
-}
-
 // TestCheckByDefinition compares Check with the table of the chapter, for formulas with and without a few changes.
 func TestCheckByDefinition(t *testing.T) {
 	count := map[api.Errno]int{}
@@ -237,7 +210,7 @@ func TestCheckByDefinition(t *testing.T) {
 		for i := range 1500 {
 			a := d.Formula(f, 1+i%9)
 			for range d.Below(3) {
-				a = changed(&d, a)
+				a = d.Changed(a)
 			}
 			want := api.OK
 			if !isFormula(f, nil, a) {

@@ -7,26 +7,17 @@ import (
 	"strings"
 
 	"ectype/api"
-	"ectype/functor"
 	"ectype/sample"
-	"ectype/system"
 )
 
-// coins is the system of the second example of DOC.md.
-const coins = "type 2 * D(X)\n0 = (0, {1 : 1, 2 : 2})\n1 = (1, {1 : 1})\n2 = (1, {2 : 1})\n"
+// What package sample has, by shorter names.
+const coins = sample.Coins
 
-// must returns the result of a call that has to succeed.
-func must[R any](r R, e api.Errno) R {
-	if e != api.OK {
-		panic(fmt.Sprint("error ", e))
-	}
-	return r
-}
+var typed, of, written, nots = sample.Functor, sample.System, sample.Text, sample.Nots
 
-func typed(s string) api.Functor  { return must(functor.Parse(s)) }
-func of(text string) api.System   { return must(system.Parse(text)) }
-func written(s api.System) string { return must(system.String(s)) }
-func isZero(a api.Formula) bool   { return a.Op == 0 && a.N == 0 && a.M == 0 && len(a.Args) == 0 }
+func must[R any](r R, e api.Errno) R { return sample.Must(r, e) }
+
+func isZero(a api.Formula) bool { return a.Op == 0 && a.N == 0 && a.M == 0 && len(a.Args) == 0 }
 
 // node returns a tree without numbers.
 func node(op int, args ...api.Formula) api.Formula { return api.Formula{Op: op, Args: args} }
@@ -44,23 +35,8 @@ var top = node(api.LTop)
 
 func step(a api.Formula) api.Formula { return node(api.LStep, a) }
 
-// nots returns a formula below so many LNot.
-func nots(many int, a api.Formula) api.Formula {
-	for range many {
-		a = node(api.LNot, a)
-	}
-	return a
-}
-
 // tops returns a flat formula with so many nodes, an odd number.
-func tops(nodes int) api.Formula {
-	if nodes == 1 {
-		return top
-	}
-	left := (nodes - 1) / 2
-	left -= 1 - left%2
-	return node(api.LAnd, tops(left), tops(nodes-1-left))
-}
+func tops(nodes int) api.Formula { return sample.Ands(nodes, top) }
 
 // oneKind has a functor of each kind, in their order, whose parts are X.
 var oneKind = []string{"X", "3", "X * X", "X + X", "X ^ 3", "P(X)", "B(X)", "D(X)"}

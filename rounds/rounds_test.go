@@ -7,36 +7,18 @@ import (
 
 	"ectype/api"
 	"ectype/sample"
-	"ectype/system"
 	"ectype/unfold"
 	"ectype/value"
 )
 
-// must returns the result of a call that has to succeed.
-func must[R any](r R, e api.Errno) R {
-	if e != api.OK {
-		panic(fmt.Sprint("error ", e))
-	}
-	return r
-}
+// What package sample has, by shorter names.
+const coins = sample.Coins
 
-func of(text string) api.System { return must(system.Parse(text)) }
+var of, cycle = sample.System, sample.Cycle
 
-// cycle returns a system of 2 * X in which so many states follow each other, the first one the last one. Only one has the output 1.
-func cycle(many, one int) api.System {
-	text := "type 2 * X\n"
-	for x := range many {
-		output := 0
-		if x == one {
-			output = 1
-		}
-		text += fmt.Sprintf("%d = (%d, %d)\n", x, output, (x+1)%many)
-	}
-	return of(text)
-}
+func must[R any](r R, e api.Errno) R { return sample.Must(r, e) }
 
 func TestClasses(t *testing.T) {
-	const coins = "type 2 * D(X)\n0 = (0, {1 : 1, 2 : 2})\n1 = (1, {1 : 1})\n2 = (1, {2 : 1})\n"
 	for _, c := range []struct {
 		systems []api.System
 		want    string

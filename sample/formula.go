@@ -1,6 +1,10 @@
 package sample
 
-import "ectype/api"
+import (
+	"slices"
+
+	"ectype/api"
+)
 
 // Formula returns some formula for f of at most this depth, which is at least 1. Its numbers are small.
 func (d *Dice) Formula(f api.Functor, depth int) api.Formula {
@@ -52,4 +56,59 @@ func (d *Dice) node(f api.Functor, part *api.Functor) (a api.Formula, below *api
 		a = api.Formula{Op: api.LShare, N: 1 + d.Below(m), M: m}
 	}
 	return a, &part.Args[0]
+}
+
+// Changed returns a with a change of one of its nodes, which often makes it no formula.
+func (d *Dice) Changed(a api.Formula) api.Formula {
+	if len(a.Args) > 0 && d.Below(3) > 0 {
+		a.Args = slices.Clone(a.Args)
+		i := d.Below(len(a.Args))
+		a.Args[i] = d.Changed(a.Args[i])
+		return a
+	}
+	switch d.Below(6) {
+	case 0:
+		a.Op = d.Below(api.LVar+3) - 1
+	case 1:
+		a.N += d.Below(3) - 1
+	case 2:
+		a.M += d.Below(3) - 1
+	case 3:
+		a.Args = append(slices.Clone(a.Args), api.Formula{})
+	case 4:
+		a = api.Formula{Op: 1 + d.Below(api.LVar), Args: []api.Formula{a}}
+	case 5:
+		if len(a.Args) > 0 {
+			a = a.Args[0]
+		}
+	}
+	return a
+}
+
+// Nots returns a formula below so many LNot.
+func Nots(many int, a api.Formula) api.Formula {
+	for range many {
+		a = api.Formula{Op: api.LNot, Args: []api.Formula{a}}
+	}
+	return a
+}
+
+// Ands returns a flat formula with so many nodes, an odd number, if its leaves are single nodes: all of them are this one.
+func Ands(nodes int, leaf api.Formula) api.Formula {
+	if nodes == 1 {
+		return leaf
+	}
+	left := (nodes - 1) / 2
+	left -= 1 - left%2
+	return api.Formula{Op: api.LAnd, Args: []api.Formula{Ands(left, leaf), Ands(nodes-1-left, leaf)}}
+}
+
+// Lists calls do with the list of the Args of each node that has some.
+func Lists(a api.Formula, do func(l []api.Formula)) {
+	if len(a.Args) > 0 {
+		do(a.Args)
+	}
+	for _, b := range a.Args {
+		Lists(b, do)
+	}
 }

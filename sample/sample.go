@@ -1,4 +1,4 @@
-// Package sample throws values and systems for the tests of the layers: always the same ones.
+// Package sample has what the tests of the layers begin with: known functors and systems, and thrown ones, always the same.
 package sample
 
 import (
@@ -6,7 +6,6 @@ import (
 
 	"ectype/api"
 	"ectype/fold"
-	"ectype/functor"
 	"ectype/value"
 )
 
@@ -19,17 +18,9 @@ func (d *Dice) Below(n int) int {
 	return int(uint64(*d)>>33) % n
 }
 
-// must returns the result of a call that has to succeed.
-func must[R any](r R, e api.Errno) R {
-	if e != api.OK {
-		panic(e)
-	}
-	return r
-}
-
 // Value returns some value of f over n states, of which there is at least one. Collections have at most three elements, and small weights.
 func (d *Dice) Value(f api.Functor, n int) api.Value {
-	return must(value.Normal(f, n, d.raw(f, n)))
+	return Must(value.Normal(f, n, d.raw(f, n)))
 }
 
 // raw returns some value of f over n states that need not be in normal form.
@@ -62,7 +53,7 @@ func (d *Dice) raw(f api.Functor, n int) api.Value {
 
 // System returns some system of a functor, given as a string, with n states.
 func (d *Dice) System(f string, n int) api.System {
-	s := api.System{Functor: must(functor.Parse(f))}
+	s := api.System{Functor: Functor(f)}
 	for range n {
 		s.Next = append(s.Next, d.Value(s.Functor, n))
 	}
@@ -81,7 +72,7 @@ func (d *Dice) Cover(s api.System, n int) (api.System, []int) {
 	}
 	c := api.System{Functor: s.Functor}
 	for _, y := range h {
-		c.Next = append(c.Next, must(value.Normal(s.Functor, n, d.lifted(s.Functor, s.Next[y], above))))
+		c.Next = append(c.Next, Must(value.Normal(s.Functor, n, d.lifted(s.Functor, s.Next[y], above))))
 	}
 	return c, h
 }

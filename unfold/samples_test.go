@@ -8,28 +8,20 @@ import (
 	"strings"
 
 	"ectype/api"
-	"ectype/functor"
-	"ectype/system"
+	"ectype/sample"
 	"ectype/value"
 )
 
-// coins is the system of the second example of DOC.md.
-const coins = "type 2 * D(X)\n0 = (0, {1 : 1, 2 : 2})\n1 = (1, {1 : 1})\n2 = (1, {2 : 1})\n"
+// What package sample has, by shorter names.
+const coins = sample.Coins
+
+var typed, of = sample.Functor, sample.System
+
+func must[R any](r R, e api.Errno) R { return sample.Must(r, e) }
 
 // swing is a system in which the order of the unfoldings of states 1 and 2 is, from depth 2 on, changed at every second depth.
 // They differ in their second components, but their first ones decide later: those depend on the order of 2 and 1, two depths before.
 const swing = "type P(X) + (X * X)\n0 = l {1, 2}\n1 = r (3, 5)\n2 = r (4, 6)\n3 = r (2, 5)\n4 = r (1, 5)\n5 = l {}\n6 = l {5}\n"
-
-// must returns the result of a call that has to succeed.
-func must[R any](r R, e api.Errno) R {
-	if e != api.OK {
-		panic(fmt.Sprint("error ", e))
-	}
-	return r
-}
-
-func typed(s string) api.Functor { return must(functor.Parse(s)) }
-func of(text string) api.System  { return must(system.Parse(text)) }
 
 // kinds has a system of several states for each kind of functor, and for some of their combinations.
 var kinds = []string{
