@@ -63,3 +63,50 @@ func TestTheSameNumbersFromTheSameStart(t *testing.T) {
 		}
 	}
 }
+
+// TestEquationsAreValid checks that variables stand only for formulas about states, below an even number of LNot, and that they are all used.
+func TestEquationsAreValid(t *testing.T) {
+	d := Dice(5)
+	var kinds [2]int
+	var uses [4]int
+	for _, text := range functors {
+		f, _ := functor.Parse(text)
+		for i := range 100 {
+			many, depth := 1+i%4, 2+i%20
+			l := d.Equations(f, many, depth)
+			if len(l) != many {
+				t.Fatalf("%d equations, not %d", len(l), many)
+			}
+			for _, q := range l {
+				if q.Greatest {
+					kinds[1]++
+				} else {
+					kinds[0]++
+				}
+				plain := withStates(t, q.Body, many, false, &uses)
+				if _, k, _ := logic.Size(q.Body); k > depth || logic.Check(f, plain) != api.OK {
+					t.Errorf("%s: %v is no Body of a depth of at most %d", text, q.Body, depth)
+				}
+			}
+		}
+	}
+	if kinds[0] < 1000 || kinds[1] < 1000 || uses[3] < 200 || uses[0] < uses[3] {
+		t.Errorf("%v kinds of equations, %v variables", kinds, uses)
+	}
+}
+
+// withStates returns a with a formula that can only be about states in the place of each of so many variables.
+func withStates(t *testing.T, a api.Formula, many int, negative bool, uses *[4]int) api.Formula {
+	if a.Op == api.LVar {
+		if negative || a.N >= many || len(a.Args) > 0 || a.M != 0 {
+			t.Fatalf("%v below an odd number of LNot: %v", a, negative)
+		}
+		uses[a.N]++
+		return api.Formula{Op: api.LStep, Args: []api.Formula{{}}}
+	}
+	b := api.Formula{Op: a.Op, N: a.N, M: a.M}
+	for _, part := range a.Args {
+		b.Args = append(b.Args, withStates(t, part, many, negative != (a.Op == api.LNot), uses))
+	}
+	return b
+}
