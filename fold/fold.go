@@ -34,3 +34,12 @@ func Part(f api.Functor, v api.Value, i int) api.Functor {
 func IsCollection(f api.Functor) bool {
 	return f.Kind == api.FPow || f.Kind == api.FBag || f.Kind == api.FDist
 }
+
+// Copy returns f in new memory.
+func Copy(f api.Functor) api.Functor {
+	g := api.Functor{Kind: f.Kind, N: f.N}
+	for _, a := range f.Args {
+		g.Args = append(g.Args, Copy(a))
+	}
+	return g
+}

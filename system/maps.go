@@ -4,6 +4,7 @@ import (
 	"slices"
 
 	"ectype/api"
+	"ectype/fold"
 )
 
 // Is reports whether h is a homomorphism from s to t.
@@ -30,7 +31,7 @@ func Quotient(s api.System, to []int) (api.System, api.Errno) {
 	if len(to) != len(s.Next) || !areStates(to, api.MaxStates) || !hasNoGap(to) {
 		return api.System{}, api.ErrArg
 	}
-	t := api.System{Functor: clone(s.Functor), Next: make([]api.Value, after(to))}
+	t := api.System{Functor: fold.Copy(s.Functor), Next: make([]api.Value, after(to))}
 	isSet := make([]bool, len(t.Next))
 	for x, v := range images(s, to) {
 		y := to[x]

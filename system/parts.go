@@ -4,6 +4,7 @@ import (
 	"slices"
 
 	"ectype/api"
+	"ectype/fold"
 	"ectype/value"
 )
 
@@ -18,7 +19,7 @@ func Sum(s, t api.System) (api.System, api.Errno) {
 	}
 	next := images(s, numbers(0, first))
 	next = append(next, images(t, numbers(first, second))...)
-	return api.System{Functor: clone(s.Functor), Next: next}, api.OK
+	return api.System{Functor: fold.Copy(s.Functor), Next: next}, api.OK
 }
 
 // numbers returns so many numbers, from the first one on.
@@ -45,7 +46,7 @@ func Part(s api.System, from []int) (api.System, []int, api.Errno) {
 		to[x] = i
 	}
 	next := images(s, to)
-	part := api.System{Functor: clone(s.Functor)}
+	part := api.System{Functor: fold.Copy(s.Functor)}
 	for _, x := range kept {
 		part.Next = append(part.Next, next[x])
 	}
@@ -92,13 +93,4 @@ func images(s api.System, to []int) []api.Value {
 		l = append(l, w)
 	}
 	return l
-}
-
-// clone returns f in new memory.
-func clone(f api.Functor) api.Functor {
-	g := api.Functor{Kind: f.Kind, N: f.N}
-	for _, a := range f.Args {
-		g.Args = append(g.Args, clone(a))
-	}
-	return g
 }

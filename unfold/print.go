@@ -1,11 +1,8 @@
 package unfold
 
 import (
-	"strconv"
-	"strings"
-
 	"ectype/api"
-	"ectype/fold"
+	"ectype/notation"
 )
 
 // String returns the string of v.
@@ -20,26 +17,5 @@ func text(f api.Functor, v api.Value, depth int) string {
 	if depth == 0 {
 		return "."
 	}
-	return written(f, v, func(u api.Value) string { return text(f, u.Args[0], depth-1) })
-}
-
-// written returns the string of v, with what leaf returns in the place of each state.
-func written(f api.Functor, v api.Value, leaf func(api.Value) string) string {
-	return fold.Of(f, v, leaf, func(f api.Functor, v api.Value, args []string) string {
-		for i, w := range v.Weights {
-			args[i] += " : " + strconv.Itoa(w)
-		}
-		list := strings.Join(args, ", ")
-		switch f.Kind {
-		case api.FConst:
-			return strconv.Itoa(v.N)
-		case api.FProd:
-			return "(" + list + ")"
-		case api.FSum:
-			return [2]string{"l ", "r "}[v.N] + list
-		case api.FExp:
-			return "[" + list + "]"
-		}
-		return "{" + list + "}"
-	})
+	return notation.Text(f, v, func(u api.Value) string { return text(f, u.Args[0], depth-1) })
 }
