@@ -7,6 +7,7 @@ import (
 	"ectype/functor"
 	"ectype/logic"
 	"ectype/system"
+	"ectype/term"
 )
 
 // functors have each kind, and combinations of them.
@@ -109,4 +110,31 @@ func withStates(t *testing.T, a api.Formula, many int, negative bool, uses *[4]i
 		b.Args = append(b.Args, withStates(t, part, many, negative != (a.Op == api.LNot), uses))
 	}
 	return b
+}
+
+func TestTermsAreValid(t *testing.T) {
+	d := Dice(7)
+	var sizes [13]int
+	invalid := 0
+	for _, text := range functors {
+		f, _ := functor.Parse(text)
+		for i := range 100 {
+			x := d.Term(f, 1+i%12)
+			_, recursions := term.Size(x)
+			if term.Check(f, x) != api.OK || recursions > 1+i%12 {
+				t.Fatalf("%s: %v is no term with at most %d recursions", text, x, 1+i%12)
+			}
+			sizes[recursions]++
+			before, _ := term.String(f, x)
+			if term.Check(f, d.ChangedTerm(x)) != api.OK {
+				invalid++
+			}
+			if after, _ := term.String(f, x); after != before {
+				t.Fatalf("%s was changed", before)
+			}
+		}
+	}
+	if sizes[1] < 100 || sizes[3] < 30 || sizes[12] < 20 || invalid < 300 || invalid > 700 {
+		t.Errorf("%v recursions, %d changed terms are invalid", sizes, invalid)
+	}
 }
