@@ -47,32 +47,6 @@ func TestMemoryOfResults(t *testing.T) {
 	}
 }
 
-// copied returns v in new memory, with more memory beyond its lists.
-func copied(v api.Value) api.Value {
-	w := api.Value{N: v.N, Weights: append(make([]int, 0, len(v.Weights)+2), v.Weights...)}
-	w.Args = make([]api.Value, 0, len(v.Args)+2)
-	for _, a := range v.Args {
-		w.Args = append(w.Args, copied(a))
-	}
-	beyond := w.Args[:len(v.Args)+2]
-	beyond[len(v.Args)].N, beyond[len(v.Args)+1].N = -7, -7
-	return w
-}
-
-// same reports whether two values are equal, also beyond their lists.
-func same(v, w api.Value) bool {
-	all, others := v.Args[:cap(v.Args)], w.Args[:cap(w.Args)]
-	if v.N != w.N || len(v.Args) != len(w.Args) || len(all) != len(others) || !reflect.DeepEqual(v.Weights[:cap(v.Weights)], w.Weights[:cap(w.Weights)]) {
-		return false
-	}
-	for i := range all {
-		if i < len(v.Args) && !same(all[i], others[i]) || all[i].N != others[i].N {
-			return false
-		}
-	}
-	return true
-}
-
 // TestArguments checks that arguments do not change, and that what lies beyond the lists of a system does not matter.
 func TestArguments(t *testing.T) {
 	d := sample.Dice(6)
@@ -81,7 +55,7 @@ func TestArguments(t *testing.T) {
 			s := d.System(f, 4)
 			u, w := api.System{Functor: typed(f)}, api.System{Functor: typed(f)}
 			for _, v := range s.Next {
-				u.Next, w.Next = append(u.Next, copied(v)), append(w.Next, copied(v))
+				u.Next, w.Next = append(u.Next, sample.RoomyValue(v)), append(w.Next, sample.RoomyValue(v))
 			}
 			for x := range s.Next {
 				for y := range s.Next {
@@ -99,7 +73,7 @@ func TestArguments(t *testing.T) {
 				}
 			}
 			for x := range u.Next {
-				if !same(u.Next[x], w.Next[x]) || !functor.Same(u.Functor, w.Functor) {
+				if !sample.SameValues(u.Next[x], w.Next[x]) || !functor.Same(u.Functor, w.Functor) {
 					t.Fatalf("%v was %v", u, w)
 				}
 			}

@@ -6,6 +6,7 @@ import (
 	"ectype/api"
 	"ectype/functor"
 	"ectype/logic"
+	"ectype/recur"
 	"ectype/system"
 	"ectype/term"
 )
@@ -136,5 +137,34 @@ func TestTermsAreValid(t *testing.T) {
 	}
 	if sizes[1] < 100 || sizes[3] < 30 || sizes[12] < 20 || invalid < 300 || invalid > 700 {
 		t.Errorf("%v recursions, %d changed terms are invalid", sizes, invalid)
+	}
+}
+
+// TestEquationTermsAreValid checks that they are recursions whose variables stand for equations, or refer to recursions in them.
+func TestEquationTermsAreValid(t *testing.T) {
+	d := Dice(12)
+	open, closed := 0, 0
+	for _, text := range functors {
+		f, _ := functor.Parse(text)
+		for i := range 100 {
+			many, recursions := 1+i%5, 1+i%3
+			l := d.EquationTerms(f, many, recursions)
+			if len(l) != many {
+				t.Fatalf("%d equation terms, not %d", len(l), many)
+			}
+			for _, x := range l {
+				if _, n := term.Size(x); n < 1 || n > recursions || len(x.Body) != 1 || !recur.IsTerm(f, x, many) {
+					t.Fatalf("%s: %v is no equation term with at most %d recursions", text, x, recursions)
+				}
+				if recur.IsTerm(f, x, many-1) {
+					closed++
+				} else {
+					open++
+				}
+			}
+		}
+	}
+	if open < 500 || closed < 500 {
+		t.Errorf("%d have a variable for the last equation, %d have none", open, closed)
 	}
 }

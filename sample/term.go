@@ -10,16 +10,26 @@ import (
 // Term returns some valid term of f with at most so many recursions, at least one, but few enough for MaxTerm nodes.
 // Elements of collections are in any order, and often equal.
 func (d *Dice) Term(f api.Functor, recursions int) api.Term {
-	return d.recursion(f, 1, &recursions)
+	return d.recursion(f, 1, 0, &recursions)
 }
 
-// recursion returns some recursion, with others out of those that are left. There are so many around its parts.
-func (d *Dice) recursion(f api.Functor, around int, left *int) api.Term {
+// EquationTerms returns so many equation terms of f, each with at most so many recursions, at least one.
+func (d *Dice) EquationTerms(f api.Functor, many, recursions int) []api.Term {
+	var l []api.Term
+	for range many {
+		left := 1 + d.Below(recursions)
+		l = append(l, d.recursion(f, 1, many, &left))
+	}
+	return l
+}
+
+// recursion returns some recursion, with others out of those that are left. There are so many around its parts, and so many equations.
+func (d *Dice) recursion(f api.Functor, around, equations int, left *int) api.Term {
 	*left--
 	leaf := func(api.Value) api.Part {
-		t := api.Term{Var: d.Below(around)}
+		t := api.Term{Var: d.Below(around + equations)}
 		if *left > 0 && around < api.MaxDepth && d.Below(3) > 0 {
-			t = d.recursion(f, around+1, left)
+			t = d.recursion(f, around+1, equations, left)
 		}
 		return api.Part{Terms: []api.Term{t}}
 	}

@@ -1,7 +1,6 @@
 package term
 
 import (
-	"slices"
 	"testing"
 
 	"ectype/api"
@@ -10,80 +9,22 @@ import (
 	"ectype/system"
 )
 
-// memory remembers the lists of all that it was shown, by their first elements.
-type memory struct {
-	terms    map[*api.Term]bool
-	parts    map[*api.Part]bool
-	values   map[*api.Value]bool
-	functors map[*api.Functor]bool
-	numbers  map[*int]bool
-}
-
-// see remembers a list, and fails if it has been seen before.
-func see[E any](t *testing.T, seen map[*E]bool, l []E) {
-	t.Helper()
-	l = l[:cap(l)]
-	if len(l) == 0 {
-		return
-	}
-	if seen[&l[0]] {
-		t.Fatalf("shared memory: %s", short(l))
-	}
-	seen[&l[0]] = true
-}
-
-func (m memory) term(t *testing.T, x api.Term) {
-	t.Helper()
-	see(t, m.parts, x.Body)
-	for _, p := range x.Body {
-		m.part(t, p)
-	}
-}
-
-func (m memory) part(t *testing.T, p api.Part) {
-	t.Helper()
-	see(t, m.parts, p.Args)
-	see(t, m.numbers, p.Weights)
-	see(t, m.terms, p.Terms)
-	for _, a := range p.Args {
-		m.part(t, a)
-	}
-	for _, x := range p.Terms {
-		m.term(t, x)
-	}
-}
-
-func (m memory) functor(t *testing.T, f api.Functor) {
-	t.Helper()
-	see(t, m.functors, f.Args)
-	for _, a := range f.Args {
-		m.functor(t, a)
-	}
-}
-
-func (m memory) nextValues(t *testing.T, l []api.Value) {
-	t.Helper()
-	see(t, m.values, l)
-	for _, v := range l {
-		see(t, m.numbers, v.Weights)
-		m.nextValues(t, v.Args)
-	}
-}
-
 // TestMemoryOfResults checks that no two results, no two parts of one, and no argument share memory. All results are kept, so that no memory is used again.
 func TestMemoryOfResults(t *testing.T) {
-	m := memory{map[*api.Term]bool{}, map[*api.Part]bool{}, map[*api.Value]bool{}, map[*api.Functor]bool{}, map[*int]bool{}}
+	m := sample.Memory{}
+	isNew := func(ok bool) {
+		t.Helper()
+		if !ok {
+			t.Fatal("shared memory")
+		}
+	}
 	samples(8, 8, func(d *sample.Dice, f string, x api.Term) {
 		g, text := typed(f), words(typed(f), x)
-		m.functor(t, g)
-		m.term(t, x)
+		isNew(m.Functor(g) && m.Parts(x.Body))
 		for range 2 {
-			m.term(t, must(Parse(g, text)))
-			s := must(System(g, x))
-			m.functor(t, s.Functor)
-			m.nextValues(t, s.Next)
+			isNew(m.Parts(must(Parse(g, text)).Body) && m.System(must(System(g, x))))
 			if p, e := Step(g, x); e == api.OK {
-				m.part(t, p)
+				isNew(m.Parts([]api.Part{p}))
 			}
 		}
 	})
@@ -93,53 +34,18 @@ func TestMemoryOfResults(t *testing.T) {
 	x := rec(weighed([]int{1, 2, 3}, inner, inner, leaf(0)))
 	g := typed("B(X)")
 	for range 2 {
-		m.part(t, must(Step(g, x)))
-		m.nextValues(t, must(System(g, x)).Next)
+		isNew(m.Parts([]api.Part{must(Step(g, x))}) && m.System(must(System(g, x))))
 	}
-	if len(m.terms) < 5000 || len(m.parts) < 5000 || len(m.values) < 1000 || len(m.numbers) < 1000 || len(m.functors) < 100 {
-		t.Errorf("%d terms, %d parts, %d values, %d lists of weights, %d functors", len(m.terms), len(m.parts), len(m.values), len(m.numbers), len(m.functors))
-	}
-}
-
-// roomy returns x in new memory, with more memory beyond its lists.
-func roomy(x api.Term) api.Term {
-	return api.Term{Var: x.Var, Body: withRoom(x.Body, roomyPart, api.Part{N: 9})}
-}
-
-func roomyPart(p api.Part) api.Part {
-	return api.Part{
-		N: p.N, Args: withRoom(p.Args, roomyPart, leaf(7)), Terms: withRoom(p.Terms, roomy, api.Term{Var: 8}),
-		Weights: withRoom(p.Weights, func(w int) int { return w }, -5),
+	if len(m) < 15000 {
+		t.Errorf("%d lists", len(m))
 	}
 }
-
-// withRoom returns the list with what change returns for its elements, and with one more beyond its length.
-func withRoom[E any](l []E, change func(E) E, beyond E) []E {
-	var room []E
-	for _, x := range l {
-		room = append(room, change(x))
-	}
-	return append(room, beyond)[:len(l)]
-}
-
-// areSame reports whether two terms are equal, also one element beyond the lengths of their lists.
-func areSame(x, y api.Term) bool {
-	return x.Var == y.Var && len(x.Body) == len(y.Body) && slices.EqualFunc(further(x.Body), further(y.Body), areSameParts)
-}
-
-func areSameParts(p, q api.Part) bool {
-	return p.N == q.N && len(p.Args) == len(q.Args) && len(p.Terms) == len(q.Terms) && len(p.Weights) == len(q.Weights) &&
-		slices.EqualFunc(further(p.Args), further(q.Args), areSameParts) && slices.EqualFunc(further(p.Terms), further(q.Terms), areSame) && slices.Equal(further(p.Weights), further(q.Weights))
-}
-
-// further returns the list with one more element, if it has the memory.
-func further[E any](l []E) []E { return l[:min(len(l)+1, cap(l))] }
 
 // TestArguments checks that arguments do not change, and that what lies beyond their lists does not matter.
 func TestArguments(t *testing.T) {
 	samples(30, 7, func(d *sample.Dice, f string, x api.Term) {
-		g, before := typed(f), roomy(x)
-		room := roomy(x)
+		g, before := typed(f), sample.RoomyTerm(x)
+		room := sample.RoomyTerm(x)
 		for range 2 {
 			if Check(g, room) != api.OK || !Same(room, x) || must(String(g, room)) != words(g, x) || !system.Same(must(System(g, room)), must(System(g, x))) {
 				t.Fatalf("%s: other results for equal arguments", words(g, x))
@@ -153,7 +59,7 @@ func TestArguments(t *testing.T) {
 				t.Fatalf("%s: other sizes for equal arguments", words(g, x))
 			}
 		}
-		if !areSame(room, before) || !functor.Same(g, typed(f)) {
+		if !sample.SameTerms(room, before) || !functor.Same(g, typed(f)) {
 			t.Fatalf("%s was changed", words(g, x))
 		}
 	})

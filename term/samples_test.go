@@ -134,62 +134,17 @@ func wordsOfPart(f, g api.Functor, p api.Part) string {
 	return list("{", args, "}")
 }
 
-// nextTexts returns the strings of the next values in the system of the term with a string, by their definition: states are written for terms.
-func nextTexts(text string) []string {
-	var l []string
-	var open []int
-	write := func(s string) {
-		if len(open) > 0 {
-			l[open[len(open)-1]] += s
-		}
-	}
-	for i := 0; i < len(text); i++ {
-		switch text[i] {
-		case '<':
-			write(fmt.Sprint(len(l)))
-			open = append(open, len(l))
-			l = append(l, "")
-		case '>':
-			open = open[:len(open)-1]
-		case '#':
-			k, digits := variable(text[i:])
-			write(fmt.Sprint(open[len(open)-1-k]))
-			i += digits
-		default:
-			write(text[i : i+1])
-		}
-	}
-	return l
-}
-
-// variable returns the number of the variable that a text begins with, and how many digits it has.
-func variable(text string) (k, digits int) {
-	fmt.Sscanf(text, "#%d", &k)
-	return k, len(fmt.Sprint(k))
-}
-
 // stepText returns the string of the part that Step returns for the term with a string, by its definition: variables that refer to it are replaced by it.
 // It says how many of these there are.
 func stepText(text string) (step string, variables int) {
-	var s strings.Builder
-	open := 0
-	for i := 0; i < len(text); i++ {
-		switch text[i] {
-		case '<':
-			open++
-		case '>':
-			open--
-		case '#':
-			if k, digits := variable(text[i:]); k == open-1 {
-				s.WriteString(text)
-				variables++
-				i += digits
-				continue
-			}
+	step = sample.Replaced(text, func(k, around int) string {
+		if k == around-1 {
+			variables++
+			return text
 		}
-		s.WriteByte(text[i])
-	}
-	return s.String()[1 : s.Len()-1], variables
+		return fmt.Sprint("#", k)
+	})
+	return step[1 : len(step)-1], variables
 }
 
 // isTerm is the definition of a valid term: it is one of f, closed, and neither too large nor too deep.

@@ -56,7 +56,8 @@ func TestSystemByDefinition(t *testing.T) {
 	sizes := map[int]int{}
 	samples(150, 12, func(d *sample.Dice, f string, x api.Term) {
 		text := words(typed(f), x)
-		want := states(f, nextTexts(text)...)
+		next, _ := sample.NextTexts(text)
+		want := states(f, next...)
 		s, e := System(typed(f), x)
 		if e != api.OK || !system.Same(s, want) || system.Check(s) != api.OK {
 			t.Fatalf("%s: error %d, %s, not %s", text, e, written(s), written(want))
